@@ -12,17 +12,17 @@ import (
 
 // Flush writes the memtable as a run, with what stands above.
 func (t *Tree) Flush(state []byte) api.Errno {
-	full := t.memory.Len() > 0
+	some := t.memory.Len() > 0
 	switch {
 	case t.isDown():
 		return api.ErrDown
 	case len(state) > api.MaxState:
 		return api.ErrState
-	case full && len(t.parts) >= api.MaxRuns:
+	case some && len(t.parts) >= api.MaxRuns:
 		return api.ErrFull
 	}
 	var fresh []*part
-	if full {
+	if some {
 		p, err := t.newPart(t.applied, t.low, t.clock, slices.Collect(t.memory.All()))
 		if err != api.OK {
 			return err

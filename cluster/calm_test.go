@@ -57,6 +57,11 @@ func newCalm(w *world) *calm {
 	}
 	c.first = slices.MaxFunc(c.q, func(a, b int) int { return w.best(a, c.q) - w.best(b, c.q) })
 	for _, node := range c.q {
+		for tablet := range w.r.tablets {
+			if w.sites[node][tablet].status.Installing {
+				w.count["staging when the calm began"]++
+			}
+		}
 		if node != c.first && c.isStuck(node) {
 			w.count["stuck"]++
 			w.crash(node)
@@ -248,6 +253,45 @@ func (c *calm) commandsComeThrough(tablets, lacked []int, bound int) {
 		left = slices.DeleteFunc(left, func(tablet int) bool { return c.isThrough(tablet) })
 	}
 	c.count["calm"]++
+	c.count["chunks in the calm"] += len(c.chunks)
+}
+
+// lag lets a node fall so far behind that it needs a snapshot of many chunks, some of which may have come.
+func (w *world) lag() {
+	w.t.Helper()
+	tablet := w.r.Intn(w.r.tablets)
+	row := "a"
+	if tablet > 0 {
+		row = string(w.c.Splits[tablet-1])
+	}
+	w.away = w.r.Intn(w.r.nodes)
+	for i := range 20 {
+		for node := range w.on {
+			if !w.on[node] {
+				w.start(node)
+			}
+			w.did("Tick", node, 0, w.x.Tick(node, w.draw(node)))
+		}
+		for n := 0; len(w.packets) > 0 && n < 300; n++ {
+			w.deliver(0)
+		}
+		if l := w.leader(tablet); l >= 0 && l != w.away {
+			w.propose("Propose", l, tablet, puts(fmt.Sprint(row, i), 4, 'x'), nil, 0)
+		}
+		if node := w.r.Intn(w.r.nodes); w.r.Intn(3) == 0 {
+			w.did("Flush", node, 0, w.x.Flush(node, tablet))
+		}
+	}
+	w.away = -1
+	if l := w.leader(tablet); l >= 0 {
+		w.did("Flush", l, 0, w.x.Flush(l, tablet))
+		for range 1 + w.r.Intn(3) {
+			w.did("Tick", l, 0, w.x.Tick(l, 0))
+		}
+	}
+	for n := w.r.Intn(40); len(w.packets) > 0 && n > 0; n-- {
+		w.deliver(w.r.Intn(min(2, len(w.packets))))
+	}
 }
 
 // isThrough tells whether what was proposed in the calm is applied by all of them.
@@ -270,7 +314,10 @@ func TestCalm(t *testing.T) {
 		for range 100 + w.r.Intn(500) {
 			w.step()
 		}
+		if seed%2 == 0 {
+			w.lag()
+		}
 		newCalm(w).goesOn()
 	})
-	atLeast(t, total, map[string]int{"calm": 96})
+	atLeast(t, total, map[string]int{"calm": 96, "chunks in the calm": 100, "staging when the calm began": 10})
 }
